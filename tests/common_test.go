@@ -12,24 +12,54 @@ import (
 // beyondMark stands in the memory after an argument's length and over the memory of a result.
 const beyondMark = -987654321
 
-// withSpare returns a copy of list that has elements beyond its length, all of them beyondMark.
-func withSpare(list []int) []int {
-	whole := append(slices.Clone(list), beyondMark, beyondMark, beyondMark)
+// paddedWith returns a copy of list that has elements beyond its length, all of them mark.
+func paddedWith[E any](mark E, list []E) []E {
+	whole := append(slices.Clone(list), mark, mark, mark)
 	return whole[:len(list)]
 }
 
-// isUntouched reports whether list, made by withSpare from original, is as it was made.
-func isUntouched(list, original []int) bool {
+// isPaddedWith reports whether list, made by paddedWith from mark and original, is as it was made.
+func isPaddedWith[E comparable](mark E, list, original []E) bool {
 	whole := list[:len(original)+3]
 	return slices.Equal(whole[:len(original)], original) &&
-		!slices.ContainsFunc(whole[len(original):], func(e int) bool { return e != beyondMark })
+		!slices.ContainsFunc(whole[len(original):], func(e E) bool { return e != mark })
 }
 
-// overwrite writes over all the memory that list reaches.
-func overwrite(list []int) {
+// overwriteWith writes e over all the memory that list reaches.
+func overwriteWith[E any](e E, list []E) {
 	for i := range list[:cap(list)] {
-		list[:cap(list)][i] = beyondMark + 1
+		list[:cap(list)][i] = e
 	}
+}
+
+// withSpare returns a copy of list that has elements beyond its length, all of them beyondMark.
+func withSpare(list []int) []int { return paddedWith(beyondMark, list) }
+
+// isUntouched reports whether list, made by withSpare from original, is as it was made.
+func isUntouched(list, original []int) bool { return isPaddedWith(beyondMark, list, original) }
+
+// overwrite writes over all the memory that list reaches.
+func overwrite(list []int) { overwriteWith(beyondMark+1, list) }
+
+// beyondRecord is to a record list what beyondMark is to an integer list.
+func beyondRecord() impl.Record { return impl.Record{Key: beyondMark, Tag: beyondMark} }
+
+func recordsWithSpare(list []impl.Record) []impl.Record { return paddedWith(beyondRecord(), list) }
+
+func areUntouched(list, original []impl.Record) bool {
+	return isPaddedWith(beyondRecord(), list, original)
+}
+
+func overwriteRecords(list []impl.Record) { overwriteWith(impl.Record{Key: beyondMark + 1}, list) }
+
+// recordsOf returns records with the keys. Their tags fall, so that neither a sort by Key and Tag
+// nor one that reverses equal Keys passes for a stable one.
+func recordsOf(keys ...int) []impl.Record {
+	list := make([]impl.Record, len(keys))
+	for i, key := range keys {
+		list[i] = impl.Record{Key: key, Tag: 999 - i}
+	}
+	return list
 }
 
 // listsOver yields every list of the length over the values, each as a new slice.
@@ -135,4 +165,10 @@ func checkNone(t *testing.T, what string, list []int, ok bool) {
 	if ok || len(list) != 0 {
 		t.Error(what, "returned", len(list), "elements and", ok)
 	}
+}
+
+// checkNoRecords does the same for a call that returns records.
+func checkNoRecords(t *testing.T, what string, list []impl.Record, ok bool) {
+	t.Helper()
+	checkNone(t, what, make([]int, len(list)), ok)
 }
