@@ -159,6 +159,36 @@ func invalidLists() [][]int {
 	}
 }
 
+// checkLeavesLists checks that no function changes its argument, one of the lists, or returns its
+// memory.
+func checkLeavesLists(t *testing.T, functions []func(list []int) []int, lists [][]int) {
+	t.Helper()
+	for _, original := range lists {
+		for i, function := range functions {
+			list := withSpare(original)
+			overwrite(function(list))
+			if !isUntouched(list, original) {
+				t.Fatal("function", i, "changed its argument of", len(list), "elements, or shares its memory")
+			}
+		}
+	}
+}
+
+// checkKeepsNothing checks that no function reads elements beyond the length of its argument, one of
+// the lists, and that each returns new memory whenever it is called.
+func checkKeepsNothing(t *testing.T, functions []func(list []int) []int, lists [][]int) {
+	t.Helper()
+	for _, list := range lists {
+		for i, function := range functions {
+			first := slices.Clone(function(withSpare(list)))
+			overwrite(function(list))
+			if again := function(list); !slices.Equal(again, first) {
+				t.Fatal("function", i, "returned", again, "after", first)
+			}
+		}
+	}
+}
+
 // checkNone checks that a call that returned list and ok has failed with an empty slice.
 func checkNone(t *testing.T, what string, list []int, ok bool) {
 	t.Helper()

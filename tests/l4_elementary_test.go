@@ -475,15 +475,7 @@ func elementaryFunctions() []func(list []int) []int {
 }
 
 func TestElementarySortsLeaveTheirArguments(t *testing.T) {
-	for _, original := range append(sampleLists(), invalidLists()...) {
-		for i, function := range elementaryFunctions() {
-			list := withSpare(original)
-			overwrite(function(list))
-			if !isUntouched(list, original) {
-				t.Fatal("function", i, "changed its argument of", len(list), "elements, or shares its memory")
-			}
-		}
-	}
+	checkLeavesLists(t, elementaryFunctions(), append(sampleLists(), invalidLists()...))
 	for _, original := range append(validGaps(), invalidGaps()...) {
 		for _, list := range [][]int{{3, 1, 2}, {1, 2, 3}, steppedList(impl.MaxList, 64, -1)} {
 			gaps := withSpare(original)
@@ -509,13 +501,7 @@ func TestElementarySortsLeaveTheirArguments(t *testing.T) {
 // Elements beyond the length count neither as keys nor as gaps, and every call returns new memory.
 func TestElementarySortsReadAndKeepNothingElse(t *testing.T) {
 	list := []int{2, 1, 3}
-	for i, function := range elementaryFunctions() {
-		first := slices.Clone(function(withSpare(list)))
-		overwrite(function(list))
-		if again := function(list); !slices.Equal(again, first) {
-			t.Error("function", i, "returned", again, "after", first)
-		}
-	}
+	checkKeepsNothing(t, elementaryFunctions(), [][]int{list})
 	if sorted, comparisons, ok := impl.ShellSort(withSpare(list), withSpare([]int{2, 1})); !ok || comparisons != 3 {
 		t.Error("Shell sort with gaps that have spare memory returned", sorted, comparisons, ok)
 	}

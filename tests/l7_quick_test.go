@@ -589,26 +589,10 @@ func quickFunctions() []func(list []int) []int {
 }
 
 func TestQuickFunctionsLeaveTheirArguments(t *testing.T) {
-	for _, original := range slices.Concat(quickSamples(), invalidLists()) {
-		for i, function := range quickFunctions() {
-			list := withSpare(original)
-			overwrite(function(list))
-			if !isUntouched(list, original) {
-				t.Fatal("function", i, "changed its argument of", len(list), "elements, or shares its memory")
-			}
-		}
-	}
+	checkLeavesLists(t, quickFunctions(), slices.Concat(quickSamples(), invalidLists()))
 }
 
 // Elements beyond the length count nowhere, and every call returns new memory.
 func TestQuickFunctionsReadAndKeepNothingElse(t *testing.T) {
-	for _, list := range quickSamples() {
-		for i, function := range quickFunctions() {
-			first := slices.Clone(function(withSpare(list)))
-			overwrite(function(list))
-			if again := function(list); !slices.Equal(again, first) {
-				t.Fatal("function", i, "returned", again, "after", first)
-			}
-		}
-	}
+	checkKeepsNothing(t, quickFunctions(), quickSamples())
 }
