@@ -189,6 +189,32 @@ func checkKeepsNothing(t *testing.T, functions []func(list []int) []int, lists [
 	}
 }
 
+// cloneLists returns a copy of lists and of each list in it.
+func cloneLists[E any](lists [][]E) [][]E {
+	cloned := slices.Clone(lists)
+	for i, list := range cloned {
+		cloned[i] = slices.Clone(list)
+	}
+	return cloned
+}
+
+func sameLists[E comparable](a, b [][]E) bool { return slices.EqualFunc(a, b, slices.Equal) }
+
+// checkSeparate checks that no two of the lists, which are parts of one result, share memory. It
+// overwrites them.
+func checkSeparate(t *testing.T, what string, lists [][]int) {
+	t.Helper()
+	for i, list := range lists {
+		before := cloneLists(lists)
+		overwriteWith(beyondMark-1-i, list)
+		for k := range lists {
+			if k != i && !slices.Equal(lists[k], before[k]) {
+				t.Error(what, i, "shares memory with", what, k)
+			}
+		}
+	}
+}
+
 // checkNone checks that a call that returned list and ok has failed with an empty slice.
 func checkNone(t *testing.T, what string, list []int, ok bool) {
 	t.Helper()

@@ -661,18 +661,6 @@ func relationOf(n, code int) [][]bool {
 	return less
 }
 
-func cloneRelation(less [][]bool) [][]bool {
-	cloned := slices.Clone(less)
-	for i, row := range cloned {
-		cloned[i] = slices.Clone(row)
-	}
-	return cloned
-}
-
-func sameRelation(a, b [][]bool) bool {
-	return slices.EqualFunc(a, b, func(x, y []bool) bool { return slices.Equal(x, y) })
-}
-
 // referenceDefect lists the violations of each axiom and returns the least one of the first
 // axiom that is violated.
 func referenceDefect(less [][]bool) []int {
@@ -708,13 +696,13 @@ func referenceDefect(less [][]bool) []int {
 // checkRelation checks both functions on one relation that is valid in size.
 func checkRelation(t *testing.T, less [][]bool) {
 	t.Helper()
-	before := cloneRelation(less)
+	before := cloneLists(less)
 	want := referenceDefect(less)
 	if witness, ok := impl.OrderDefect(less); !ok || !slices.Equal(witness, want) {
 		t.Fatal("OrderDefect of", less, "returns", witness, ok, "instead of", want)
 	}
 	classes, ok := impl.OrderClasses(less)
-	if !sameRelation(less, before) {
+	if !sameLists(less, before) {
 		t.Fatal("the relation", before, "became", less)
 	}
 	if len(want) > 0 {
@@ -867,7 +855,7 @@ func TestOrderClasses(t *testing.T) {
 		{[]int{11, 10, 9, 8, 7, 6, 5, 4, 3, 2, 1, 0}, [][]int{{11}, {10}, {9}, {8}, {7}, {6}, {5}, {4}, {3}, {2}, {1}, {0}}},
 	} {
 		got, ok := impl.OrderClasses(rankedRelation(c.ranks))
-		if !ok || !slices.EqualFunc(got, c.want, func(a, b []int) bool { return slices.Equal(a, b) }) {
+		if !ok || !sameLists(got, c.want) {
 			t.Error("ranks", c.ranks, "yield", got, ok)
 		}
 	}
@@ -879,10 +867,5 @@ func TestOrderClassesMemory(t *testing.T) {
 	if !ok || len(got) != 3 {
 		t.Fatal(got, ok)
 	}
-	for i := range got[0][:cap(got[0])] {
-		got[0][:cap(got[0])][i] = -1
-	}
-	if !slices.Equal(got[1], []int{3, 4}) || !slices.Equal(got[2], []int{5}) {
-		t.Error("classes share memory:", got)
-	}
+	checkSeparate(t, "class", got)
 }

@@ -238,7 +238,7 @@ func TestPermutationCycles(t *testing.T) {
 		{[]int{0, 4, 3, 2, 5, 1}, [][]int{{0}, {1, 4, 5}, {2, 3}}},
 	} {
 		cycles, ok := impl.PermutationCycles(c.p)
-		if !ok || !slices.EqualFunc(cycles, c.cycles, slices.Equal) {
+		if !ok || !sameLists(cycles, c.cycles) {
 			t.Error("the cycles of", c.p, "are", cycles, ok)
 		}
 	}
@@ -494,17 +494,7 @@ func TestPermutationFunctionsLeaveTheirArguments(t *testing.T) {
 func TestResultsOfPermutationsShareNoMemory(t *testing.T) {
 	p := []int{1, 2, 0, 4, 3, 5}
 	cycles, _ := impl.PermutationCycles(p)
-	for i := range cycles {
-		for k := range cycles {
-			if k != i {
-				before := slices.Clone(cycles[k])
-				overwrite(cycles[i])
-				if !slices.Equal(cycles[k], before) {
-					t.Error("cycle", i, "shares memory with cycle", k)
-				}
-			}
-		}
-	}
+	checkSeparate(t, "cycle", cycles)
 	first, _ := impl.UnrankPermutation(4, 7)
 	overwrite(first)
 	if again, _ := impl.UnrankPermutation(4, 7); !slices.Equal(again, []int{1, 0, 3, 2}) {
